@@ -1,0 +1,1 @@
+"""Layer packing with bars; the operations stand in layerbars.layers."""

@@ -1,0 +1,72 @@
+"""The operations on a layer that is packed with bars."""
+
+GREATEST_SIZE = 6
+OUT_OF_RANGE = -22
+CANNOT_FILL = -33
+
+
+def fill(width, height, length):
+    """Give back the number of bars of the canonical filling and then the bars, x, y and direction each."""
+    if not sizes_in_range(width, height, length):
+        return [OUT_OF_RANGE]
+    bars = find_filling(width, height, length, [])
+    if bars is None:
+        return [CANNOT_FILL]
+    return [len(bars) // 3] + bars
+
+
+def can_fill(width, height, length):
+    """Give back [1] if the layer can be filled completely, otherwise [0]."""
+    if not sizes_in_range(width, height, length):
+        return [OUT_OF_RANGE]
+    # De Bruijn's theorem answers this without a search.
+    if width % length == 0 or height % length == 0:
+        return [1]
+    return [0]
+
+
+def sizes_in_range(width, height, length):
+    """Tell whether each of the three sizes is one that the operations take."""
+    return all([1 <= size <= GREATEST_SIZE for size in (width, height, length)])
+
+
+def find_filling(width, height, length, covered):
+    """Give back the bars that the depth-first search adds to the covered squares, or None if it finds no filling."""
+    square = first_free_square(width, height, covered)
+    if square is None:
+        return []
+    # Direction 1 goes first: the canonical filling is the first one that is met in this order.
+    for direction in (1, 0):
+        bar = bar_squares(square[0], square[1], direction, length)
+        if lies_inside(width, height, bar) and not overlaps(bar, covered):
+            # At most 36 bars lie in a layer, so the calls within one another stay few.
+            rest = find_filling(width, height, length, covered + bar)
+            if rest is not None:
+                return [square[0], square[1], direction] + rest
+    return None
+
+
+def first_free_square(width, height, covered):
+    """Give back the first square, row by row, that is not covered, or None if all are."""
+    for y in range(height):
+        for x in range(width):
+            if (x, y) not in covered:
+                return (x, y)
+    return None
+
+
+def bar_squares(x, y, direction, length):
+    """Give back the squares that a bar covers, its first square first."""
+    if direction == 1:
+        return [(x + step, y) for step in range(length)]
+    return [(x, y + step) for step in range(length)]
+
+
+def lies_inside(width, height, squares):
+    """Tell whether every one of the squares belongs to the layer."""
+    return all([square[0] < width and square[1] < height for square in squares])
+
+
+def overlaps(squares, covered):
+    """Tell whether one of the squares is covered already."""
+    return any([square in covered for square in squares])
