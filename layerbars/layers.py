@@ -1,6 +1,8 @@
 """The operations on a layer that is packed with bars."""
 
 GREATEST_SIZE = 6
+# Beyond the last square of every layer: a bar that lies outside can still be in form.
+GREATEST_COORDINATE = 7
 OUT_OF_RANGE = -22
 CANNOT_FILL = -33
 
@@ -25,9 +27,35 @@ def can_fill(width, height, length):
     return [0]
 
 
+def is_valid(width, height, length, bars):
+    """Give back [1] if the bars lie inside the layer and do not overlap, otherwise [0]."""
+    if not (sizes_in_range(width, height, length) and bars_in_form(bars)):
+        return [OUT_OF_RANGE]
+    if arrangement_squares(width, height, length, bars) is None:
+        return [0]
+    return [1]
+
+
+def colour_counts(width, height, length):
+    """Give back the length and then the number of squares of each colour, from colour 0 on."""
+    if not sizes_in_range(width, height, length):
+        return [OUT_OF_RANGE]
+    return [length] + count_colours(layer_squares(width, height), length)
+
+
 def sizes_in_range(width, height, length):
     """Tell whether each of the three sizes is one that the operations take."""
     return all([1 <= size <= GREATEST_SIZE for size in (width, height, length)])
+
+
+def bars_in_form(bars):
+    """Tell whether the list holds three numbers for each bar and all of them are in range."""
+    if len(bars) % 3 != 0:
+        return False
+    coordinates = bars[0::3] + bars[1::3]
+    if not all([0 <= coordinate <= GREATEST_COORDINATE for coordinate in coordinates]):
+        return False
+    return all([direction in (0, 1) for direction in bars[2::3]])
 
 
 def find_filling(width, height, length, covered):
@@ -48,11 +76,29 @@ def find_filling(width, height, length, covered):
 
 def first_free_square(width, height, covered):
     """Give back the first square, row by row, that is not covered, or None if all are."""
-    for y in range(height):
-        for x in range(width):
-            if (x, y) not in covered:
-                return (x, y)
+    for square in layer_squares(width, height):
+        if square not in covered:
+            return square
     return None
+
+
+def arrangement_squares(width, height, length, bars):
+    """Give back the squares that the bars cover, bar by bar, or None if the arrangement is not valid."""
+    covered = []
+    for start in range(0, len(bars), 3):
+        bar = bar_squares(bars[start], bars[start + 1], bars[start + 2], length)
+        if not lies_inside(width, height, bar) or overlaps(bar, covered):
+            return None
+        covered.extend(bar)
+    return covered
+
+
+def layer_squares(width, height):
+    """Give back the squares of the layer, row by row."""
+    squares = []
+    for y in range(height):
+        squares.extend([(x, y) for x in range(width)])
+    return squares
 
 
 def bar_squares(x, y, direction, length):
@@ -70,3 +116,11 @@ def lies_inside(width, height, squares):
 def overlaps(squares, covered):
     """Tell whether one of the squares is covered already."""
     return any([square in covered for square in squares])
+
+
+def count_colours(squares, length):
+    """Give back the number of the squares of each of the colours 0 to length - 1."""
+    counts = [0] * length
+    for square in squares:
+        counts[(square[0] + square[1]) % length] += 1
+    return counts
