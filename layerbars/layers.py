@@ -4,7 +4,8 @@ GREATEST_SIZE = 6
 # Beyond the last square of every layer: a bar that lies outside can still be in form.
 GREATEST_COORDINATE = 7
 OUT_OF_RANGE = -22
-CANNOT_FILL = -33
+# One code for both: a layer that cannot be filled, and an arrangement that is not valid.
+NO_VALID_ARRANGEMENT = -33
 
 
 def fill(width, height, length):
@@ -13,7 +14,7 @@ def fill(width, height, length):
         return [OUT_OF_RANGE]
     bars = find_filling(width, height, length, [])
     if bars is None:
-        return [CANNOT_FILL]
+        return [NO_VALID_ARRANGEMENT]
     return [len(bars) // 3] + bars
 
 
@@ -41,6 +42,25 @@ def colour_counts(width, height, length):
     if not sizes_in_range(width, height, length):
         return [OUT_OF_RANGE]
     return [length] + count_colours(layer_squares(width, height), length)
+
+
+def bounds(width, height, length):
+    """Give back the number of squares of the rarest colour and the number of bars that parallel rows hold."""
+    if not sizes_in_range(width, height, length):
+        return [OUT_OF_RANGE]
+    colour_bound = min(count_colours(layer_squares(width, height), length))
+    row_packing = max(bars_in_rows(width, height, length), bars_in_rows(height, width, length))
+    return [colour_bound, row_packing]
+
+
+def covered_colours(width, height, length, bars):
+    """Give back the number of covered squares and then how many of them have each colour, from colour 0 on."""
+    if not (sizes_in_range(width, height, length) and bars_in_form(bars)):
+        return [OUT_OF_RANGE]
+    covered = arrangement_squares(width, height, length, bars)
+    if covered is None:
+        return [NO_VALID_ARRANGEMENT]
+    return [len(covered)] + count_colours(covered, length)
 
 
 def sizes_in_range(width, height, length):
@@ -124,3 +144,8 @@ def count_colours(squares, length):
     for square in squares:
         counts[(square[0] + square[1]) % length] += 1
     return counts
+
+
+def bars_in_rows(along, across, length):
+    """Give back the number of bars in rows that run along, with the strip that they leave filled across."""
+    return (along // length) * across + (across // length) * (along % length)

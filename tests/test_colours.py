@@ -3,13 +3,7 @@
 import unittest
 
 from layerbars.layers import colour_counts, fill
-from support import ALL_SIZES, BARS_IN_FORM, divides_a_side, layer_squares, squares_of
-
-
-def plain_counts(width, height, length):
-    """The number of squares of each colour, by the words of "Colour"."""
-    colours = [(x + y) % length for x, y in layer_squares(width, height)]
-    return [colours.count(colour) for colour in range(length)]
+from support import ALL_SIZES, BARS_IN_FORM, colours_of, divides_a_side, layer_squares, squares_of
 
 
 def corner_counts(width, height, length):
@@ -67,7 +61,7 @@ class ForAllSizes(unittest.TestCase):
 
     def test_it_is_the_plain_count(self):
         for sizes in ALL_SIZES:
-            self.assertEqual(colour_counts(*sizes), [sizes[2]] + plain_counts(*sizes), sizes)
+            self.assertEqual(colour_counts(*sizes), [sizes[2]] + colours_of(layer_squares(*sizes[:2]), sizes[2]), sizes)
 
     def test_there_is_a_count_for_each_colour(self):
         for sizes in ALL_SIZES:

@@ -3,7 +3,7 @@
 import unittest
 
 from layerbars.layers import can_fill, fill
-from support import ALL_SIZES, divides_a_side, flat, layer_squares, squares_of
+from support import ALL_SIZES, bars_of, divides_a_side, flat, layer_squares, squares_of
 
 
 def fillings(free, length):
@@ -31,11 +31,6 @@ def expected_fill(width, height, length):
     if bars is None:
         return [-33]
     return [len(bars)] + flat(bars)
-
-
-def bars_of(answer):
-    """The bars in an answer of fill, three numbers each."""
-    return [tuple(answer[at:at + 3]) for at in range(1, len(answer), 3)]
 
 
 class Examples(unittest.TestCase):

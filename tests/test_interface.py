@@ -11,19 +11,19 @@ import unittest
 from unittest import mock
 
 from layerbars import layers
-from layerbars.layers import can_fill, colour_counts, fill, is_valid
-from support import ALL_SIZES, GREATEST_NUMBER, edge_cases
+from layerbars.layers import bounds, can_fill, colour_counts, covered_colours, fill, is_valid
+from support import ALL_SIZES, GREATEST_NUMBER, ON_ARRANGEMENTS, ON_SIZES, PINWHEEL, edge_cases, flat
 
-ON_SIZES = (fill, can_fill, colour_counts)
-ON_ARRANGEMENTS = (is_valid,)
 SOME_OUT_OF_RANGE = [(0, 1, 1), (1, 7, 1), (1, 1, 7)]
-# Valid in most layers, overlapping, leaving the layer, and not in form.
+# Valid in most layers, valid in a great one, overlapping, leaving the layer, and not in form.
 ARRANGEMENTS = (
     (),
     (0, 0, 1),
     (0, 0, 0, 1, 0, 0),
+    tuple(flat(PINWHEEL)),
     (0, 0, 1, 0, 0, 1),
     (7, 7, 1),
+    (0, 0, 0) * 20,
     (0, 0, 1, 8, 0, 0),
     (0, 0, 2),
     (0, 0),
@@ -80,9 +80,10 @@ class OutOfRange(unittest.TestCase):
     def test_length_0_divides_nothing_and_is_refused(self):
         for width, height in itertools.product((0, 1, 6, 7), repeat=2):
             with self.subTest(width=width, height=height):
-                self.assertEqual(fill(width, height, 0), [-22])
-                self.assertEqual(can_fill(width, height, 0), [-22])
-                self.assertEqual(colour_counts(width, height, 0), [-22])
+                for operation in ON_SIZES:
+                    self.assertEqual(operation(width, height, 0), [-22], operation.__name__)
+                for operation in ON_ARRANGEMENTS:
+                    self.assertEqual(operation(width, height, 0, []), [-22], operation.__name__)
 
 
 class Interface(unittest.TestCase):
@@ -100,8 +101,10 @@ class Interface(unittest.TestCase):
         self.assertEqual(fill(length=2, height=1, width=4), [2, 0, 0, 1, 2, 0, 1])
         self.assertEqual(can_fill(length=2, height=1, width=4), [1])
         self.assertEqual(colour_counts(length=3, height=1, width=4), [3, 2, 1, 1])
+        self.assertEqual(bounds(length=3, height=1, width=4), [1, 1])
         self.assertEqual(is_valid(bars=[0, 0, 1], length=2, height=1, width=4), [1])
         self.assertEqual(is_valid(bars=[0, 0, 0], length=2, height=1, width=4), [0])
+        self.assertEqual(covered_colours(bars=[0, 0, 1], length=2, height=1, width=4), [2, 1, 1])
 
     def test_every_answer_is_a_list_of_whole_numbers(self):
         for operation, arguments in all_calls():
@@ -193,9 +196,9 @@ class HandedIn(unittest.TestCase):
             Unchangeable([1]).append(2)
 
     def test_an_answer_is_another_list(self):
-        # Numbers that could be answers themselves would hide a list that is given back as it was handed in.
-        for bars in ([], [0, 0, 1], [0, 0, 2], [1]):
-            self.assertIsNot(is_valid(3, 2, 2, bars), bars)
+        for operation, bars in itertools.product(ON_ARRANGEMENTS, ARRANGEMENTS + ((1,), (4, 2, 2))):
+            handed_in = list(bars)
+            self.assertIsNot(operation(3, 2, 2, handed_in), handed_in, (operation.__name__, bars))
 
 
 if __name__ == "__main__":
