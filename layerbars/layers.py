@@ -63,6 +63,19 @@ def covered_colours(width, height, length, bars):
     return [len(covered)] + count_colours(covered, length)
 
 
+def free_squares(width, height, length, bars):
+    """Give back twice the number of free squares and then their x and y, row by row."""
+    if not (sizes_in_range(width, height, length) and bars_in_form(bars)):
+        return [OUT_OF_RANGE]
+    covered = arrangement_squares(width, height, length, bars)
+    if covered is None:
+        return [NO_VALID_ARRANGEMENT]
+    coordinates = []
+    for square in uncovered_squares(width, height, covered):
+        coordinates.extend(square)
+    return [len(coordinates)] + coordinates
+
+
 def sizes_in_range(width, height, length):
     """Tell whether each of the three sizes is one that the operations take."""
     return all([1 <= size <= GREATEST_SIZE for size in (width, height, length)])
@@ -80,25 +93,18 @@ def bars_in_form(bars):
 
 def find_filling(width, height, length, covered):
     """Give back the bars that the depth-first search adds to the covered squares, or None if it finds no filling."""
-    square = first_free_square(width, height, covered)
-    if square is None:
+    uncovered = uncovered_squares(width, height, covered)
+    if len(uncovered) == 0:
         return []
+    first = uncovered[0]
     # Direction 1 goes first: the canonical filling is the first one that is met in this order.
     for direction in (1, 0):
-        bar = bar_squares(square[0], square[1], direction, length)
+        bar = bar_squares(first[0], first[1], direction, length)
         if lies_inside(width, height, bar) and not overlaps(bar, covered):
             # At most 36 bars lie in a layer, so the calls within one another stay few.
             rest = find_filling(width, height, length, covered + bar)
             if rest is not None:
-                return [square[0], square[1], direction] + rest
-    return None
-
-
-def first_free_square(width, height, covered):
-    """Give back the first square, row by row, that is not covered, or None if all are."""
-    for square in layer_squares(width, height):
-        if square not in covered:
-            return square
+                return [first[0], first[1], direction] + rest
     return None
 
 
@@ -119,6 +125,11 @@ def layer_squares(width, height):
     for y in range(height):
         squares.extend([(x, y) for x in range(width)])
     return squares
+
+
+def uncovered_squares(width, height, covered):
+    """Give back the squares of the layer that are not covered, row by row."""
+    return [square for square in layer_squares(width, height) if square not in covered]
 
 
 def bar_squares(x, y, direction, length):

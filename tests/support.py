@@ -2,10 +2,10 @@
 
 import itertools
 
-from layerbars.layers import bounds, can_fill, colour_counts, covered_colours, fill, is_valid
+from layerbars.layers import bounds, can_fill, colour_counts, covered_colours, fill, free_squares, is_valid
 
 ON_SIZES = (fill, can_fill, colour_counts, bounds)
-ON_ARRANGEMENTS = (is_valid, covered_colours)
+ON_ARRANGEMENTS = (is_valid, covered_colours, free_squares)
 SIZES = range(1, 7)
 ALL_SIZES = list(itertools.product(SIZES, repeat=3))
 GREATEST_NUMBER = 4294967295

@@ -9,13 +9,6 @@ from support import (ALL_SIZES, BARS_IN_FORM, GREATEST_LIST, PINWHEEL, bars_insi
                      pairs_inside, pairs_with_a_bar_outside)
 
 
-class Examples(unittest.TestCase):
-    """The row of the document."""
-
-    def test_is_valid(self):
-        self.assertEqual(is_valid(3, 2, 2, [0, 0, 1, 2, 0, 0]), [1])
-
-
 class ByHand(unittest.TestCase):
     """Arrangements worked out by hand, apart from every count of squares."""
 

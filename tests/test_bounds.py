@@ -14,13 +14,6 @@ def plain_bounds(width, height, length):
     return [rarest, max(first, second)]
 
 
-class Examples(unittest.TestCase):
-    """The row of the document."""
-
-    def test_bounds(self):
-        self.assertEqual(bounds(6, 6, 4), [8, 8])
-
-
 class ByHand(unittest.TestCase):
     """Numbers worked out by hand."""
 

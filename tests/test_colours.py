@@ -20,13 +20,6 @@ def counts_within(left, right, low, high, length):
     return [whole - beside - below + both for whole, beside, below, both in zip(*corners)]
 
 
-class Examples(unittest.TestCase):
-    """The row of the document."""
-
-    def test_colour_counts(self):
-        self.assertEqual(colour_counts(6, 6, 4), [4, 9, 10, 9, 8])
-
-
 class ByHand(unittest.TestCase):
     """Counts worked out by hand."""
 

@@ -16,13 +16,6 @@ def plain_answer(width, height, length, bars):
     return [len(covered)] + colours_of(covered, length)
 
 
-class Examples(unittest.TestCase):
-    """The row of the document."""
-
-    def test_covered_colours(self):
-        self.assertEqual(covered_colours(3, 2, 2, [0, 0, 1, 2, 0, 0]), [4, 2, 2])
-
-
 class ByHand(unittest.TestCase):
     """Answers worked out by hand."""
 

@@ -33,19 +33,6 @@ def expected_fill(width, height, length):
     return [len(bars)] + flat(bars)
 
 
-class Examples(unittest.TestCase):
-    """The rows of the document."""
-
-    def test_fill_with_a_filling(self):
-        self.assertEqual(fill(2, 2, 2), [2, 0, 0, 1, 0, 1, 1])
-
-    def test_fill_without_a_filling(self):
-        self.assertEqual(fill(6, 6, 4), [-33])
-
-    def test_can_fill(self):
-        self.assertEqual(can_fill(6, 6, 4), [0])
-
-
 class FillByHand(unittest.TestCase):
     """Lists worked out by hand, apart from every search."""
 

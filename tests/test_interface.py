@@ -11,7 +11,7 @@ import unittest
 from unittest import mock
 
 from layerbars import layers
-from layerbars.layers import bounds, can_fill, colour_counts, covered_colours, fill, is_valid
+from layerbars.layers import bounds, can_fill, colour_counts, covered_colours, fill, free_squares, is_valid
 from support import ALL_SIZES, GREATEST_NUMBER, ON_ARRANGEMENTS, ON_SIZES, PINWHEEL, edge_cases, flat
 
 SOME_OUT_OF_RANGE = [(0, 1, 1), (1, 7, 1), (1, 1, 7)]
@@ -89,13 +89,21 @@ class OutOfRange(unittest.TestCase):
 class Interface(unittest.TestCase):
     """Names, arguments and kinds, and that a call leaves no trace."""
 
+    def test_there_are_seven_plain_functions(self):
+        self.assertEqual([operation.__name__ for operation in ON_SIZES + ON_ARRANGEMENTS],
+                         ["fill", "can_fill", "colour_counts", "bounds", "is_valid", "covered_colours", "free_squares"])
+        for operation in ON_SIZES + ON_ARRANGEMENTS:
+            self.assertTrue(inspect.isfunction(operation), operation)
+            self.assertEqual(operation.__module__, "layerbars.layers")
+            for parameter in inspect.signature(operation).parameters.values():
+                self.assertIs(parameter.kind, inspect.Parameter.POSITIONAL_OR_KEYWORD, operation)
+                self.assertIs(parameter.default, inspect.Parameter.empty, operation)
+
     def test_the_parameters_bear_the_names_of_the_document(self):
         for operation in ON_SIZES:
             self.assertEqual(list(inspect.signature(operation).parameters), ["width", "height", "length"])
         for operation in ON_ARRANGEMENTS:
             self.assertEqual(list(inspect.signature(operation).parameters), ["width", "height", "length", "bars"])
-        for operation in ON_SIZES + ON_ARRANGEMENTS:
-            self.assertEqual(operation.__module__, "layerbars.layers")
 
     def test_the_parameters_can_be_given_by_name(self):
         self.assertEqual(fill(length=2, height=1, width=4), [2, 0, 0, 1, 2, 0, 1])
@@ -105,6 +113,7 @@ class Interface(unittest.TestCase):
         self.assertEqual(is_valid(bars=[0, 0, 1], length=2, height=1, width=4), [1])
         self.assertEqual(is_valid(bars=[0, 0, 0], length=2, height=1, width=4), [0])
         self.assertEqual(covered_colours(bars=[0, 0, 1], length=2, height=1, width=4), [2, 1, 1])
+        self.assertEqual(free_squares(bars=[0, 0, 1], length=2, height=1, width=4), [4, 2, 0, 3, 0])
 
     def test_every_answer_is_a_list_of_whole_numbers(self):
         for operation, arguments in all_calls():
